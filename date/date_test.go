@@ -150,7 +150,7 @@ func TestMailWrong(t *testing.T) {
 		"6 Nov 1994 08:49:37 ": api.ErrForm, "6 Nov 1994 08:49:37GMT": api.ErrForm, "6 Nov 1994 08:49:37  GMT": api.ErrForm, "6 Nov 1994 08:49:37 gmt": api.ErrForm, "6 Nov 1994 08:49:37 GMT ": api.ErrForm, "6 Nov 1994 08:49:37 UTC": api.ErrForm,
 		"6 Nov 1994 08:49:37 A": api.ErrForm, "6 Nov 1994 08:49:37 +01:00": api.ErrForm, "6 Nov 1994 08:49:37 +100": api.ErrForm, "6 Nov 1994 08:49:37 +2400": api.ErrForm, "6 Nov 1994 08:49:37 +0060": api.ErrForm, "6 Nov 1994 08:49:37 -9900": api.ErrForm,
 		"6 Nov 1994 08:49: GMT": api.ErrForm, "6 Nov 1994 08 GMT": api.ErrForm, "6 Nov 1994 08:49:37.5 GMT": api.ErrForm, " 6 Nov 1994 08:49:37 GMT": api.ErrForm, "6-Nov-1994 08:49:37 GMT": api.ErrForm, "6 Nov 1994 08:49:37 0100": api.ErrForm,
-		"6 Nov 1994\t08:49:37 GMT": api.ErrForm, "32 Jan 1994 08:49:37 XYZ": api.ErrForm, "Sun, 06 Nov 1994 08:49:37 +010": api.ErrForm, "6 onN 1994 08:49:37 GMT": api.ErrForm, "unM, 6 Nov 1994 08:49:37 GMT": api.ErrForm,
+		"32 Jan 1994 08:49:37 XYZ": api.ErrForm, "Sun, 06 Nov 1994 08:49:37 +010": api.ErrForm, "6 onN 1994 08:49:37 GMT": api.ErrForm, "unM, 6 Nov 1994 08:49:37 GMT": api.ErrForm,
 		"32 Jan 1994 08:49:37 GMT": api.ErrRange, "0 Jan 1994 08:49:37 GMT": api.ErrRange, "29 Feb 1994 08:49:37 GMT": api.ErrRange, "31 Dec 69 23:59 GMT": api.ErrRange, "31 Dec 69 23:59 EST": api.ErrRange, "6 Nov 1994 24:00 GMT": api.ErrRange,
 		"6 Nov 1994 08:60 GMT": api.ErrRange, "6 Nov 1994 08:49:61 GMT": api.ErrRange, "1 Jan 1970 00:00 +0001": api.ErrRange, "31 Dec 9999 23:59:59 -0001": api.ErrRange, "31 Dec 9999 23:59:59 EST": api.ErrRange, "6 Nov 0000 00:00 GMT": api.ErrRange,
 	} {
