@@ -2,7 +2,7 @@ package base
 
 import (
 	"handbill/api"
-	"handbill/num"
+	"handbill/pack"
 )
 
 // Encode tells the record of a time's writes.
@@ -13,8 +13,8 @@ func Encode(at int, l []api.Write) ([]byte, api.Errno) {
 	if !writesMay(l) {
 		return nil, api.ErrForm
 	}
-	b := appendNumber(nil, at)
-	b = appendNumber(b, len(l))
+	b := pack.Number(nil, at)
+	b = pack.Number(b, len(l))
 	for _, w := range l {
 		b = appendWrite(b, w)
 	}
@@ -38,71 +38,35 @@ func writesMay(l []api.Write) bool {
 
 func appendWrite(b []byte, w api.Write) []byte {
 	if w.Gone {
-		return appendText(append(b, 1), w.Key)
+		return pack.Text(append(b, 1), w.Key)
 	}
-	return appendText(appendText(append(b, 0), w.Key), w.Value)
-}
-
-func appendText(b []byte, s string) []byte {
-	return append(appendNumber(b, len(s)), s...)
-}
-
-func appendNumber(b []byte, n int) []byte {
-	v, _ := num.Var(n)
-	return append(b, v...)
+	return pack.Text(pack.Text(append(b, 0), w.Key), w.Value)
 }
 
 // Decode tells the record whose bytes b are.
 func Decode(b []byte) (int, []api.Write, api.Errno) {
-	r := reader{b: b}
-	at := r.number()
+	r := pack.Read(b)
+	at := r.Number()
 	var l []api.Write
-	for n := r.number(); n > 0 && !r.bad; n-- {
-		l = append(l, r.write())
+	for n := r.Number(); n > 0 && !r.Bad(); n-- {
+		w, ok := readWrite(r)
+		if !ok {
+			return 0, nil, api.ErrForm
+		}
+		l = append(l, w)
 	}
-	if r.bad || r.at != len(b) || !timeMay(at) || !writesMay(l) {
+	if !r.Done() || !timeMay(at) || !writesMay(l) {
 		return 0, nil, api.ErrForm
 	}
 	return at, l, api.OK
 }
 
-// reader reads a record from the front; bad says that something was none.
-type reader struct {
-	b   []byte
-	at  int
-	bad bool
-}
-
-func (r *reader) number() int {
-	n, at, e := num.ReadVar(r.b, r.at)
-	if e != api.OK {
-		r.bad = true
-		return 0
-	}
-	r.at = at
-	return n
-}
-
-func (r *reader) text() string {
-	n := r.number()
-	if n > len(r.b)-r.at {
-		r.bad = true
-		return ""
-	}
-	r.at += n
-	return string(r.b[r.at-n : r.at])
-}
-
-func (r *reader) write() api.Write {
-	gone, e := num.Get(r.b, r.at, 1)
-	if e != api.OK || gone > 1 {
-		r.bad = true
-		return api.Write{}
-	}
-	r.at++
-	w := api.Write{Key: r.text(), Gone: gone == 1}
+// readWrite reads a write, and tells whether its first byte was one that may be.
+func readWrite(r *pack.Reader) (api.Write, bool) {
+	gone := r.Byte()
+	w := api.Write{Key: r.Text(), Gone: gone == 1}
 	if !w.Gone {
-		w.Value = r.text()
+		w.Value = r.Text()
 	}
-	return w
+	return w, gone <= 1
 }

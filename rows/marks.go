@@ -4,6 +4,7 @@ import (
 	"slices"
 
 	"handbill/api"
+	"handbill/build"
 	"handbill/json"
 )
 
@@ -31,11 +32,11 @@ func PutMarks(l []Mark) (string, api.Errno) {
 	if !marksMay(l) {
 		return "", api.ErrForm
 	}
-	v := json.Value{Kind: json.List}
+	var all []json.Value
 	for _, m := range l {
-		v.L = append(v.L, json.Value{Kind: json.List, L: []json.Value{{Kind: json.Number, N: m.When}, {Kind: json.Number, N: m.Upto}}})
+		all = append(all, json.Value{Kind: json.List, L: []json.Value{{Kind: json.Number, N: m.When}, {Kind: json.Number, N: m.Upto}}})
 	}
-	return object(json.Member{Name: "marks", V: v})
+	return object(build.List("marks", all))
 }
 
 // GetMarks tells the marks whose row it is.
