@@ -150,6 +150,18 @@ func TestPages(t *testing.T) {
 	}
 }
 
+func TestTargetOfOne(t *testing.T) {
+	b := history(t)
+	p, e := delta.Next(b, "u", print1(t, token.Token{User: "u", To: 1, Key: "a"}), 5)
+	if !slices.Equal(p.Changes, []change{{Key: "d/a", Val: "{}"}}) || p.More || p.At != 1 || p.Next != print1(t, token.Token{User: "u", From: 1}) || e != api.OK {
+		t.Errorf("P23.1: to 1: %+v, %d", p, e)
+	}
+	p, e = delta.Next(b, "u", print1(t, token.Token{User: "u", From: 1, To: 1, Key: "a"}), 5)
+	if len(p.Changes) > 0 || p.More || p.At != 1 || e != api.OK {
+		t.Errorf("P23.1: from 1 to 1: %+v, %d", p, e)
+	}
+}
+
 func TestErrors(t *testing.T) {
 	b := history(t)
 	b.Prune(3)

@@ -176,6 +176,39 @@ func TestRoom(t *testing.T) {
 	}
 }
 
+func TestResize(t *testing.T) {
+	d := fresh(t, 3)
+	want(t, "P8.2: Append", d.Append("a", []byte("123")), api.OK)
+	want(t, "P8.2: Append above the room", d.Append("a", []byte("4")), api.ErrFull)
+	d.Resize(5)
+	want(t, "P8.1: Append to a greater room", d.Append("a", []byte("45")), api.OK)
+	want(t, "P8.1: Append above the greater room", d.Append("a", []byte("6")), api.ErrFull)
+	want(t, "P8.2: Cut", d.Cut("a", 1), api.OK)
+	d.Resize(2)
+	want(t, "P8.1: Append above a smaller room", d.Append("a", []byte("45")), api.ErrFull)
+	want(t, "P8.1: Append to a smaller room", d.Append("a", []byte("4")), api.OK)
+}
+
+// TestCopyOfPending lets a disk and its copy go on with several changes pending.
+func TestCopyOfPending(t *testing.T) {
+	for n := range 9 {
+		d := fresh(t, 100)
+		text := ""
+		for i := range n {
+			text += string(rune('0' + i))
+			d.Append("a", []byte(text[i:]))
+		}
+		c := d.Copy()
+		d.Append("a", []byte("d"))
+		c.Append("a", []byte("c"))
+		d.Append("a", []byte("D"))
+		d.Crash(n+2, -1)
+		c.Crash(n+1, -1)
+		holds(t, "P8.4: the disk", d, map[string]string{"a": text + "dD"})
+		holds(t, "P8.4: the copy", c, map[string]string{"a": text + "c"})
+	}
+}
+
 func TestDown(t *testing.T) {
 	d := fresh(t, 100)
 	d.Append("a", []byte("x"))

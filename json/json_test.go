@@ -77,8 +77,9 @@ func TestParseAndPrint(t *testing.T) {
 		`9007199254740991`: `9007199254740991`, `-9007199254740991`: `-9007199254740991`, `"\u00e9\/\n"`: `"é/\n"`, `false`: `false`,
 		`{"":0,"\u0061":{"z":"","y":[]}}`: `{"":0,"a":{"y":[],"z":""}}`, `{"é":1,"z":2,"Z":3}`: `{"Z":3,"z":2,"é":1}`, ` "a" `: `"a"`,
 		`{"a" : 1 , "b":2 }`: `{"a":1,"b":2}`, strings.Repeat("[", 64) + strings.Repeat("]", 64): strings.Repeat("[", 64) + strings.Repeat("]", 64),
-		strings.Repeat("[", 63) + "1" + strings.Repeat("]", 63):   strings.Repeat("[", 63) + "1" + strings.Repeat("]", 63),
-		strings.Repeat("[", 63) + "{ }" + strings.Repeat("]", 63): strings.Repeat("[", 63) + "{}" + strings.Repeat("]", 63),
+		strings.Repeat("[", 63) + "1" + strings.Repeat("]", 63):                                 strings.Repeat("[", 63) + "1" + strings.Repeat("]", 63),
+		strings.Repeat("[", 63) + "{ }" + strings.Repeat("]", 63):                               strings.Repeat("[", 63) + "{}" + strings.Repeat("]", 63),
+		strings.Repeat("[", 30) + strings.Repeat("[],{},", 100) + "1" + strings.Repeat("]", 30): strings.Repeat("[", 30) + strings.Repeat("[],{},", 100) + "1" + strings.Repeat("]", 30),
 		`{"a":{"a":1}}`: `{"a":{"a":1}}`, `[{"a":1},{"a":1}]`: `[{"a":1},{"a":1}]`,
 	} {
 		v, e := json.Parse([]byte(text))
@@ -105,6 +106,7 @@ func TestParseWrong(t *testing.T) {
 		"": api.ErrShort, " \n": api.ErrShort, "t": api.ErrShort, "tru": api.ErrShort, "[nul": api.ErrShort, "fals": api.ErrShort, "-": api.ErrShort, "[": api.ErrShort, "[1": api.ErrShort,
 		"[1,": api.ErrShort, "[1 ": api.ErrShort, "{": api.ErrShort, `{"a"`: api.ErrShort, `{"a":`: api.ErrShort, `{"a":1`: api.ErrShort, `{"a":1,`: api.ErrShort, `{"a`: api.ErrShort,
 		`"a`: api.ErrShort, `"\u12`: api.ErrShort, `["\ud800`: api.ErrShort, "{ ": api.ErrShort, `{"a" `: api.ErrShort, `{"a":1, `: api.ErrShort,
+		"[tru,1]": api.ErrForm, "[nul]": api.ErrForm, `{"a":fals}`: api.ErrForm, "90071992547409910": api.ErrRange, "-90071992547409919": api.ErrRange,
 		"x": api.ErrForm, "trux": api.ErrForm, "True": api.ErrForm, "nulL": api.ErrForm, "+1": api.ErrForm, "01": api.ErrForm, "-01": api.ErrForm, "00": api.ErrForm, "-a": api.ErrForm, "--1": api.ErrForm,
 		"1.5": api.ErrForm, "1e5": api.ErrForm, "1E5": api.ErrForm, "0.": api.ErrForm, "-0e1": api.ErrForm, ".5": api.ErrForm, "1.": api.ErrForm, "[1.5": api.ErrForm,
 		"99999999999999999999.5": api.ErrForm, "99999999999999999999e": api.ErrForm, "0123456789012345678901": api.ErrForm, "9007199254740992E0": api.ErrForm,

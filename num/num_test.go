@@ -25,6 +25,9 @@ func TestPutGet(t *testing.T) {
 		if e != api.OK || !bytes.Equal(b, c.want) {
 			t.Errorf("P1.1: Put(%d, %d) = % x, %d", c.n, c.width, b, e)
 		}
+		if n, e := num.Get(b, 0, c.width); n != c.n || e != api.OK {
+			t.Errorf("P1.1: Get up to the end of %d, %d: %d, %d", c.n, c.width, n, e)
+		}
 		for at := range 4 {
 			l := append(bytes.Repeat([]byte{9}, at), b...)
 			l = append(l, 77)

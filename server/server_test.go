@@ -246,7 +246,7 @@ func TestWithin(t *testing.T) {
 		{`{"op":"list","feed":"x","after":-1,"limit":2}`, `{"items":[{"guid":"g0","link":"","num":0,"read":true,"star":false,"title":"t0","when":10},{"guid":"g1","link":"","num":1,"read":true,"star":false,"title":"t1","when":11}],"more":true,"ok":true}`},
 		{`{"op":"list","feed":"x","after":1,"limit":2}`, `{"items":[{"guid":"g2","link":"","num":2,"read":false,"star":true,"title":"t2","when":12}],"more":false,"ok":true}`},
 		{`{"op":"list","feed":"x","after":-2,"limit":2}`, fail(api.ErrRange)}, {`{"op":"list","feed":"x","after":-1,"limit":51}`, fail(api.ErrRange)}, {`{"op":"list","feed":"y","after":-1,"limit":2}`, fail(api.ErrNone)}, {`{"op":"list","feed":"Y","after":-2,"limit":2}`, fail(api.ErrName)},
-		{`{"op":"read","feed":"x","entry":0,"on":false}`, done}, {`{"op":"unread","feed":"x"}`, `{"ok":true,"unread":2}`}, {`{"op":"commit"}`, `{"at":4,"ok":true}`}, {`{"op":"commit"}`, fail(api.ErrTx)}, {`{"op":"subs"}`, fail(api.ErrTx)},
+		{`{"op":"mark","feed":"x","before":99}`, done}, {`{"op":"unread","feed":"x"}`, `{"ok":true,"unread":0}`}, {`{"op":"read","feed":"x","entry":2,"on":false}`, done}, {`{"op":"read","feed":"x","entry":0,"on":false}`, done}, {`{"op":"unread","feed":"x"}`, `{"ok":true,"unread":2}`}, {`{"op":"commit"}`, `{"at":4,"ok":true}`}, {`{"op":"commit"}`, fail(api.ErrTx)}, {`{"op":"subs"}`, fail(api.ErrTx)},
 	} {
 		inAnswers(t, s, tx, c[0], c[1])
 	}

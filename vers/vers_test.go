@@ -219,6 +219,25 @@ func TestCopy(t *testing.T) {
 	}
 }
 
+// TestCopyOfChains lets a store and its copy go on with several versions of a key.
+func TestCopyOfChains(t *testing.T) {
+	for n := range 9 {
+		s := vers.New[string]()
+		for at := 1; at <= n; at++ {
+			s.Put(at, "a", "old")
+		}
+		c := s.Copy()
+		s.Put(n+1, "a", "store")
+		c.Put(n+1, "a", "copy")
+		if v, _ := s.Get("a", n+1); v != "store" {
+			t.Errorf("P11.4: the store behind %d versions: %s", n, v)
+		}
+		if v, _ := c.Get("a", n+1); v != "copy" {
+			t.Errorf("P11.4: the copy behind %d versions: %s", n, v)
+		}
+	}
+}
+
 // TestModel holds a store against all its versions in a list, of which none is ever dropped.
 func TestModel(t *testing.T) {
 	r := rand.New(rand.NewSource(13))

@@ -128,6 +128,38 @@ func TestAppend(t *testing.T) {
 	stands(t, "P10.2: behind Open", l, 7, 16)
 }
 
+func TestGreatFirst(t *testing.T) {
+	d := fresh()
+	l, _, _ := open(t, d, 16)
+	calls := d.Calls()
+	if e := l.Append(make([]byte, 100)); e != api.OK || d.Calls() != calls+2 {
+		t.Errorf("P10.2: Append: %d, %d calls", e, d.Calls()-calls)
+	}
+	stands(t, "P10.2: one above the segment, in an empty one", l, 1, 106)
+}
+
+// TestCallsOfCheck counts them: Append, Sync, Rename, Sync, a Delete of each segment from the least one on, Sync.
+func TestCallsOfCheck(t *testing.T) {
+	for _, c := range []struct {
+		files   []string
+		appends int
+		calls   int
+	}{{nil, 0, 6}, {nil, 1, 6}, {nil, 3, 8}, {[]string{"w000005"}, 0, 6}, {[]string{"w000005"}, 1, 7}, {[]string{"w000005", "w000008"}, 0, 9}} {
+		d := fresh()
+		for _, name := range c.files {
+			d.Append(name, frames("abcdefgh"))
+		}
+		l, _, _ := open(t, d, 16)
+		for range c.appends {
+			l.Append([]byte("abcdefgh"))
+		}
+		before := d.Calls()
+		if e := l.Check(recs("p")); e != api.OK || d.Calls() != before+c.calls {
+			t.Errorf("P10.3: %v and %d appended: %d, %d calls", c.files, c.appends, e, d.Calls()-before)
+		}
+	}
+}
+
 func TestAppendErrors(t *testing.T) {
 	d := fresh()
 	l, _, _ := open(t, d, 16)

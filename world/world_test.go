@@ -129,13 +129,16 @@ func TestFall(t *testing.T) {
 	}
 	events[0].Kind = disk.Crashed
 	does(t, "no room", w, world.Act{Kind: world.Ingest, Name: "g", Bytes: world.Doc(0, 0)}, true, true, world.Told{Act: 6, Err: api.ErrFull})
+	w.Do(world.Act{Kind: world.Room, A: 10})
+	does(t, "Check without room", w, world.Act{Kind: world.Check}, true, true, world.Told{Act: 8, Err: api.ErrFull})
+	w.Do(world.Act{Kind: world.Room, A: 1 << 20})
 	// A commit that is pending may fall with what Fall keeps.
 	w.Do(ask(`{"op":"begin","user":"u"}`))
 	does(t, "Fall", w, world.Act{Kind: world.Fall, A: math.MaxInt, B: math.MinInt}, true, false)
 	does(t, "Fall once more", w, world.Act{Kind: world.Fall}, false, false)
 	w.Disk().Reboot()
-	does(t, "Start", w, world.Act{Kind: world.Start}, true, true, world.Told{Act: 10})
-	does(t, "an older transaction", w, ask(`{"op":"commit","tx":1048577}`), true, true, world.Told{Act: 11, Bytes: []byte(`{"error":13,"ok":false}`)})
+	does(t, "Start", w, world.Act{Kind: world.Start}, true, true, world.Told{Act: 13})
+	does(t, "an older transaction", w, ask(`{"op":"commit","tx":1048577}`), true, true, world.Told{Act: 14, Bytes: []byte(`{"error":13,"ok":false}`)})
 }
 
 func TestRun(t *testing.T) {
@@ -198,7 +201,7 @@ func TestActs(t *testing.T) {
 		{[4]byte{1, 199, 9, 9}, ask(`{"op":"commit","tx":1048580}`)}, {[4]byte{1, 200, 9, 9}, ask(`{"op":"commit","tx":2097153}`)}, {[4]byte{2, 1, 0, 16}, ask(`{"op":"abort","tx":1048578}`)}, {[4]byte{2, 1, 0, 17}, ask(`{"op":"subs","tx":1048578}`)},
 		{[4]byte{3, 0, 0, 0}, ask(`{"feed":"f","name":"","op":"subscribe","tx":1048577}`)}, {[4]byte{3, 0, 1, 1}, ask(`{"feed":"g","name":"d","op":"subscribe","tx":1048577}`)}, {[4]byte{4, 2, 1, 1}, ask(`{"name":"d","op":"folder","tx":1048579}`)},
 		{[4]byte{5, 0, 0, 127}, ask(`{"entry":2,"feed":"f","on":false,"op":"read","tx":1048577}`)}, {[4]byte{5, 0, 3, 128}, ask(`{"entry":3,"feed":"g","on":true,"op":"read","tx":1048577}`)}, {[4]byte{6, 203, 2, 255}, ask(`{"entry":0,"feed":"f","on":true,"op":"star","tx":2097156}`)},
-		{[4]byte{7, 0, 1, 61}, ask(`{"before":1,"feed":"g","op":"mark","tx":1048577}`)}, {[4]byte{8, 0, 0, 0}, ask(`{"after":-1,"feed":"f","limit":2,"op":"list","tx":1048577}`)}, {[4]byte{8, 0, 1, 7}, ask(`{"after":2,"feed":"g","limit":2,"op":"list","tx":1048577}`)},
+		{[4]byte{6, 0, 2, 127}, ask(`{"entry":2,"feed":"f","on":false,"op":"star","tx":1048577}`)}, {[4]byte{6, 0, 2, 128}, ask(`{"entry":3,"feed":"f","on":true,"op":"star","tx":1048577}`)}, {[4]byte{7, 0, 1, 61}, ask(`{"before":1,"feed":"g","op":"mark","tx":1048577}`)}, {[4]byte{8, 0, 0, 0}, ask(`{"after":-1,"feed":"f","limit":2,"op":"list","tx":1048577}`)}, {[4]byte{8, 0, 1, 7}, ask(`{"after":2,"feed":"g","limit":2,"op":"list","tx":1048577}`)},
 		{[4]byte{9, 0, 1, 7}, ask(`{"feed":"g","op":"unread","tx":1048577}`)}, {[4]byte{10, 0, 1, 9}, ask(`{"limit":5,"op":"sync","token":"","user":"u"}`)}, {[4]byte{10, 1, 0, 5}, ask(`{"limit":1,"op":"sync","token":"","user":"v"}`)},
 		{[4]byte{11, 4, 2, 7}, world.Act{Kind: world.Ingest, Name: "f", Bytes: world.Doc(4, 7)}}, {[4]byte{12, 255, 255, 255}, world.Act{Kind: world.Ingest, Name: "g", Bytes: world.Doc(255, 255)}}, {[4]byte{13, 1, 1, 2}, world.Act{Kind: world.Prune}}, {[4]byte{13, 1, 1, 3}, world.Act{Kind: world.Check}},
 		{[4]byte{14, 10, 7, 0}, event(disk.Event{At: 2, Kind: disk.Crashed, Keep: 3, Torn: -1})}, {[4]byte{14, 8, 127, 199}, event(disk.Event{At: 9, Kind: disk.Crashed, Keep: 3})}, {[4]byte{14, 9, 128, 8}, event(disk.Event{At: 1, Kind: disk.NoRoom, Torn: 7})},

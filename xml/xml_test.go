@@ -38,7 +38,7 @@ func TestTokens(t *testing.T) {
 		`<a><![CDATA[x]]]]><![CDATA[>]]></a>`: {a, words("x]]>"), z}, `<a>]]></a>`: {a, words("]]>"), z}, `<a>></a>`: {a, words(">"), z},
 		`<a>x<b/>y<b>z</b></a>`:            {a, words("x"), open("", "b"), closed("", "b"), words("y"), open("", "b"), words("z"), closed("", "b"), z},
 		`<a>&lt;&gt;&amp;&quot;&apos;</a>`: {a, words(`<>&"'`), z}, `<a>&#65;&#x41;&#x0000e9;&#0000233;&#x10FFFF;&#9;&#xA;&#13;&#32;</a>`: {a, words("AAéé\U0010ffff\t\n\r "), z},
-		`<a>&amp;amp;</a>`: {a, words("&amp;"), z}, "<a>é€😀\x7f</a>": {a, words("é€😀\x7f"), z}, `<a x='"' y="'" z = "&lt;&#60;>"/>`: {open("", "a", xml.Attr{Name: "x", Value: `"`}, xml.Attr{Name: "y", Value: "'"}, xml.Attr{Name: "z", Value: "<<>"}), z},
+		`<a>&#xa;&#xd;&#xEf;&#xFa;&#xaF;</a>`: {a, words("\n\r\u00ef\u00fa\u00af"), z}, `<AZaz A="" Z="" a="" z=""/>`: {open("", "AZaz", xml.Attr{Name: "A"}, xml.Attr{Name: "Z"}, xml.Attr{Name: "a"}, xml.Attr{Name: "z"}), closed("", "AZaz")}, `<a>&amp;amp;</a>`: {a, words("&amp;"), z}, "<a>é€😀\x7f</a>": {a, words("é€😀\x7f"), z}, `<a x='"' y="'" z = "&lt;&#60;>"/>`: {open("", "a", xml.Attr{Name: "x", Value: `"`}, xml.Attr{Name: "y", Value: "'"}, xml.Attr{Name: "z", Value: "<<>"}), z},
 		"<a b=''\n c\t=\r'\n'></a>": {open("", "a", xml.Attr{Name: "b"}, xml.Attr{Name: "c", Value: "\n"}), z},
 		`<_a-.9Z b.c_-1="2"/>`:      {open("", "_a-.9Z", xml.Attr{Name: "b.c_-1", Value: "2"}), closed("", "_a-.9Z")},
 	} {
@@ -71,12 +71,12 @@ func TestSpaces(t *testing.T) {
 
 func TestTokensForm(t *testing.T) {
 	for _, doc := range []string{
-		"x<a/>", "<a/>x", "<a/><b/>", "<a></a></a>", "<a></b>", "<a></ab>", "<ab></a>", "<a:b xmlns:a='u'></b>", "<a></a:a>", "<a><b></a></b>", "</a><a/>", "<1a/>", "<-a/>", "<.a/>", "< a/>", "<é/>", "<aé/>", "<a:/>", "<:a/>",
+		"x<a/>", "<a/>x", "<a/><b/>", "<a></a></a>", "<a></b>", "<a></ab>", "<ab></a>", "<a:b xmlns:a='u'></b>", "<a></a:a>", "<a><b></a></b>", "</a><a/>", "<1a/>", "<-a/>", "<.a/>", "< a/>", "<@/>", "<[/>", "<`/>", "<{/>", "<a@/>", "<a[/>", "<a`/>", "<a{/>", "<a,/>", "<a+/>", "<é/>", "<aé/>", "<a:/>", "<:a/>",
 		"<a:1b xmlns:a='u'/>", "<a:b:c xmlns:a='u'/>", "<a/ >", "<a / >", "<a//>", "<a x/>", "<a x=1/>", "<a x=/>", "<a x='1'y='2'/>", "<a x='1' x='2'/>", "<a x='1' y='1' x='1'/>", "<a xmlns='u' xmlns='u'/>",
 		"<a xmlns:p='u' xmlns:p='v'/>", "<a xmlns:p='u' p:x='1' p:x='2'/>", "<a x='<'/>", "<a x='&'/>", "<a x='&b;'/>", "<a x='&lt'/>", "<a 1x='1'/>", "<a =''/>", "<a x:='1'/>", "<a x=`1`/>",
 		"<p:a/>", "<a p:x='1'/>", "<a><b xmlns:p='u'/><p:c/></a>", "<xmlns:a/>", "<a xmlns:p='u'><q:b/></a>", "<P:a xmlns:p='u'/>",
 		"<a>&</a>", "<a>&;</a>", "<a>& lt;</a>", "<a>&LT;</a>", "<a>&nbsp;</a>", "<a>&lt </a>", "<a>&#;</a>", "<a>&#x;</a>", "<a>&#X41;</a>", "<a>&#12345678;</a>", "<a>&#x1234567;</a>", "<a>&#00000065;</a>", "<a>&#x0000041;</a>",
-		"<a>&#a;</a>", "<a>&#xg;</a>", "<a>&#-5;</a>", "<a>&#0;</a>", "<a>&#8;</a>", "<a>&#11;</a>", "<a>&#31;</a>", "<a>&#x1F;</a>", "<a>&#xD800;</a>", "<a>&#xDFFF;</a>", "<a>&#x110000;</a>", "<a>&#1114112;</a>", "<a>&#9999999;</a>", "<a>&ltx;</a>",
+		"<a>&#4:;</a>", "<a>&#x4:;</a>", "<a>&#x4G;</a>", "<a>&#x4@;</a>", "<a>&#x4`;</a>", "<a>&#x4/;</a>", "<a>&#a;</a>", "<a>&#xg;</a>", "<a>&#-5;</a>", "<a>&#0;</a>", "<a>&#8;</a>", "<a>&#11;</a>", "<a>&#31;</a>", "<a>&#x1F;</a>", "<a>&#xD800;</a>", "<a>&#xDFFF;</a>", "<a>&#x110000;</a>", "<a>&#1114112;</a>", "<a>&#9999999;</a>", "<a>&ltx;</a>",
 		"<a><!-- -- --></a>", "<a><!-- x-- --></a>", "<a><!-- ---- --></a>", "<!-- -- --><a/>", "<a/><!-- -- -->", "<a><!- x --></a>", "<a><!x></a>", "<a><!></a>", "<a><![cdata[x]]></a>", "<a><![CDATAx]]></a>", "<![CDATA[x]]><a/>", "<a/><![CDATA[x]]>",
 		"<!DOCTYPE a><a/>", "<a><?x ?></a>", "<?x ?><a/>", " <?xml ?><a/>", "<?xml?><a/>", "<?xmlx ?><a/>", "<?XML ?><a/>", "<?xml ?><?xml ?><a/>", "<!-- --><?xml ?><a/>", "<a/><?xml ?>", "<a/>\x00", "<a>\x01</a>", "<a>\x0b</a>", "<a>\x1f</a>",
 		"<!-- \x02 --><a/>", "<?xml \x03?><a/>", "<a x='\x04'/>", "<a><![CDATA[\x05]]></a>", "<a>\xff</a>", "<a>\xc3</a>", "<a>\xed\xa0\x80</a>", "<!-- \xff --><a/>", "<a x='\xc0\x80'/>", "<a/><!-- \xfe -->", "\xEF\xBB\xBF\xEF\xBB\xBF<a/>", "<a/>\xEF\xBB\xBF",
